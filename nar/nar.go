@@ -1,0 +1,50 @@
+// Package nar: trees as bytes, and stores of them: see DOC.md.
+package nar
+
+import (
+	"nar/api"
+	"nar/tree"
+	"nar/wire"
+)
+
+// Pack: a tree as bytes; or the first node that is wrong (P2).
+func Pack(l []api.Node) (string, api.Errno, int) { return tree.Pack(l) }
+
+// Sum: of bytes: eight (P2).
+func Sum(s string) string { return wire.Sum(s) }
+
+// Reader: of a tree out of bytes that come in pieces.
+type Reader struct{}
+
+// NewReader: of no bytes yet (P3).
+func NewReader() *Reader { return nil }
+
+// Feed: more bytes (P3).
+func (r *Reader) Feed(s string) api.Errno { return api.OK }
+
+// Close: all bytes have come (P3).
+func (r *Reader) Close() ([]api.Node, api.Errno, int) { return nil, api.OK, 0 }
+
+// Store: trees by their paths.
+type Store struct{}
+
+// NewStore: an empty one (P4).
+func NewStore() *Store { return nil }
+
+// Insert: an entry more (P4).
+func (s *Store) Insert(path string, l []api.Node, refs []string) api.Errno { return api.OK }
+
+// Get: an entry (P5).
+func (s *Store) Get(path string) (api.Entry, api.Errno) { return api.Entry{}, api.OK }
+
+// Paths: all, rising (P5).
+func (s *Store) Paths() []string { return nil }
+
+// Closure: what some paths lead to (P5).
+func (s *Store) Closure(roots []string) ([]string, api.Errno) { return nil, api.OK }
+
+// Export: that as bytes (P6).
+func (s *Store) Export(roots []string) (string, api.Errno) { return "", api.OK }
+
+// Import: entries out of bytes (P7).
+func (s *Store) Import(pieces []string) ([]string, api.Errno, int) { return nil, api.OK, 0 }
