@@ -14,16 +14,34 @@ func Pack(l []api.Node) (string, api.Errno, int) { return tree.Pack(l) }
 func Sum(s string) string { return wire.Sum(s) }
 
 // Reader: of a tree out of bytes that come in pieces.
-type Reader struct{}
+type Reader struct {
+	in *tree.Reader // nil, if it is closed
+}
 
 // NewReader: of no bytes yet (P3).
-func NewReader() *Reader { return nil }
+func NewReader() *Reader { return &Reader{in: tree.NewReader()} }
 
 // Feed: more bytes (P3).
-func (r *Reader) Feed(s string) api.Errno { return api.OK }
+func (r *Reader) Feed(s string) api.Errno {
+	if r.isClosed() {
+		return api.ErrClosed
+	}
+	r.in.Feed(s)
+	return api.OK
+}
 
 // Close: all bytes have come (P3).
-func (r *Reader) Close() ([]api.Node, api.Errno, int) { return nil, api.OK, 0 }
+func (r *Reader) Close() ([]api.Node, api.Errno, int) {
+	if r.isClosed() {
+		return nil, api.ErrClosed, 0
+	}
+	in := r.in
+	r.in = nil // with it all is let go that was kept, the list that is handed out too
+	return in.Close()
+}
+
+// isClosed: so is a reader that NewReader did not make: no call may panic on it.
+func (r *Reader) isClosed() bool { return r == nil || r.in == nil }
 
 // Store: trees by their paths.
 type Store struct{}

@@ -1,4 +1,4 @@
-// Package tree: which lists of nodes are trees, and a tree as bytes.
+// Package tree: which lists of nodes are trees, and trees as bytes and out of bytes.
 package tree
 
 import (

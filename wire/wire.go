@@ -1,4 +1,4 @@
-// Package wire: strings as bytes, and the sum of bytes.
+// Package wire: strings as bytes and out of bytes, and the sum of bytes.
 package wire
 
 // word: strings are filled up to multiples of it; a length and a sum are of that many bytes.
@@ -15,12 +15,15 @@ func Append(out []byte, l ...string) []byte {
 	for _, s := range l {
 		out = appendNumber(out, uint64(len(s)))
 		out = append(out, s...)
-		for range (word - len(s)%word) % word {
+		for range filling(len(s)) {
 			out = append(out, 0)
 		}
 	}
 	return out
 }
+
+// filling: how many bytes are wanting to a multiple of eight.
+func filling(n int) int { return (word - n%word) % word }
 
 // Sum: of the bytes of s. They are taken by their places: a range over s would give letters.
 func Sum(s string) string {
