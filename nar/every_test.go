@@ -175,9 +175,12 @@ func TestEveryCallEnds(t *testing.T) {
 				r.Feed(s)
 				r.Close()
 				st.Insert(s, l, texts)
+				st.Insert("m", l, []string{s})
+				st.Insert("m", root(), nil)
 				st.Get(s)
 				st.Paths()
 				st.Closure(texts)
+				st.Closure([]string{"m", s})
 				st.Export([]string{s})
 				st.Import([]string{s, s})
 			}

@@ -3,6 +3,7 @@ package nar
 
 import (
 	"nar/api"
+	"nar/store"
 	"nar/tree"
 	"nar/wire"
 )
@@ -44,22 +45,34 @@ func (r *Reader) Close() ([]api.Node, api.Errno, int) {
 func (r *Reader) isClosed() bool { return r == nil || r.in == nil }
 
 // Store: trees by their paths.
-type Store struct{}
+type Store struct {
+	in store.Entries
+}
 
 // NewStore: an empty one (P4).
-func NewStore() *Store { return nil }
+func NewStore() *Store { return &Store{in: store.Entries{}} }
 
 // Insert: an entry more (P4).
-func (s *Store) Insert(path string, l []api.Node, refs []string) api.Errno { return api.OK }
+func (s *Store) Insert(path string, l []api.Node, refs []string) api.Errno {
+	return s.entries().Insert(path, l, refs)
+}
 
 // Get: an entry (P5).
-func (s *Store) Get(path string) (api.Entry, api.Errno) { return api.Entry{}, api.OK }
+func (s *Store) Get(path string) (api.Entry, api.Errno) { return s.entries().Get(path) }
 
 // Paths: all, rising (P5).
-func (s *Store) Paths() []string { return nil }
+func (s *Store) Paths() []string { return s.entries().Paths() }
 
 // Closure: what some paths lead to (P5).
-func (s *Store) Closure(roots []string) ([]string, api.Errno) { return nil, api.OK }
+func (s *Store) Closure(roots []string) ([]string, api.Errno) { return s.entries().Closure(roots) }
+
+// entries: a store that NewStore did not make has none, and no room for one: no call may panic on it.
+func (s *Store) entries() store.Entries {
+	if s == nil {
+		return nil
+	}
+	return s.in
+}
 
 // Export: that as bytes (P6).
 func (s *Store) Export(roots []string) (string, api.Errno) { return "", api.OK }

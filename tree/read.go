@@ -42,6 +42,14 @@ func (r *Reader) Close() ([]api.Node, api.Errno, int) {
 	return r.nodes, api.OK, 0
 }
 
+// Unpack: the tree that Pack wrote.
+func Unpack(s string) []api.Node {
+	r := NewReader()
+	r.Feed(s)
+	l, _, _ := r.Close()
+	return l
+}
+
 // takeBracket: where a node begins.
 func (r *Reader) takeBracket(s string) api.Errno {
 	switch {

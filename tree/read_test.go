@@ -1,6 +1,7 @@
 package tree
 
 import (
+	"slices"
 	"strings"
 	"testing"
 
@@ -25,5 +26,18 @@ func TestReaderLetsGoOfDirectoriesThatAreOver(t *testing.T) {
 	r.Feed(string(wire.Append(nil, "nar-1", "(", "type", "dir", "entry", "(", "name", "a", "node", "(", "type", "dir", ")", ")", ")")))
 	if len(r.dirs) != 0 || len(r.nodes) != 2 {
 		t.Errorf("%d directories, %d nodes", len(r.dirs), len(r.nodes))
+	}
+}
+
+func TestUnpack(t *testing.T) {
+	l := []api.Node{{Kind: api.Dir}, {Path: "a", Kind: api.Dir}, {Path: "a/x", Kind: api.Exec, Data: "\x00run"}, {Path: "b", Kind: api.Link, Data: "a"}, {Path: "c", Kind: api.File}}
+	s, _, _ := Pack(l)
+	first, second := Unpack(s), Unpack(s)
+	if !slices.Equal(first, l) || !slices.Equal(second, l) {
+		t.Errorf("%v, %v", first, second)
+	}
+	first[0] = api.Node{}
+	if !slices.Equal(second, l) {
+		t.Errorf("two lists share memory: %v", second)
 	}
 }

@@ -1,0 +1,95 @@
+package store
+
+import (
+	"container/heap"
+	"slices"
+	"strings"
+	"testing"
+
+	"nar/api"
+)
+
+func leaf() []api.Node { return []api.Node{{Kind: api.File}} }
+
+func TestIsPath(t *testing.T) {
+	for _, s := range []string{"a", "z", "0", "9", "-", "abcdefghijkl"} {
+		if !isPath(s) {
+			t.Errorf("%q is a path", s)
+		}
+	}
+	for _, s := range []string{"", "A", "`", "{", "/", ":", ",", ".", "é", "\xff", "a\x00", "abcdefghijklm"} {
+		if isPath(s) {
+			t.Errorf("%q is no path", s)
+		}
+	}
+}
+
+func TestRise(t *testing.T) {
+	for _, text := range []string{"", "a", "a b", "- 0 a a- aa", "Z a é"} {
+		if !rise(strings.Fields(text)) {
+			t.Errorf("%q rises", text)
+		}
+	}
+	for _, text := range []string{"a a", "b a", "a b b", "a c b", "aa a", "é z"} {
+		if rise(strings.Fields(text)) {
+			t.Errorf("%q does not rise", text)
+		}
+	}
+}
+
+func TestQueueHandsOutTheLeast(t *testing.T) {
+	q := &queue{}
+	for _, s := range []string{"m", "a", "z", "a-", "0"} {
+		heap.Push(q, &waiting{path: s})
+	}
+	var got []string
+	for q.Len() > 0 {
+		got = append(got, heap.Pop(q).(*waiting).path)
+		if len(got) == 2 {
+			heap.Push(q, &waiting{path: "-"})
+		}
+	}
+	if want := []string{"0", "a", "-", "a-", "m", "z"}; !slices.Equal(got, want) {
+		t.Errorf("%q, want %q", got, want)
+	}
+}
+
+func TestQueueTakesOnlyWhatHasARank(t *testing.T) {
+	q := &queue{}
+	q.Push("a")
+	q.Push(nil)
+	if q.Len() != 0 {
+		t.Errorf("%d in it", q.Len())
+	}
+}
+
+func TestReachedTellsWhatWantsWhat(t *testing.T) {
+	m := Entries{"m": {refs: []string{"m"}}, "z": {refs: []string{"m"}}, "a": {refs: []string{"a", "m", "z"}}, "else": {refs: []string{"a"}}}
+	found := m.reached([]string{"a", "z"})
+	if len(found) != 3 || found["m"].wants != 0 || found["z"].wants != 1 || found["a"].wants != 2 {
+		t.Errorf("%d are found", len(found))
+	}
+	if len(found["m"].users) != 2 || len(found["z"].users) != 1 || len(found["a"].users) != 0 {
+		t.Errorf("they have %d, %d and %d users", len(found["m"].users), len(found["z"].users), len(found["a"].users))
+	}
+}
+
+func TestEntriesThatNobodyMade(t *testing.T) {
+	var m Entries
+	if e := m.Insert("a", leaf(), nil); e != api.ErrFull {
+		t.Errorf("Insert: %d", e)
+	}
+	if len(m.Paths()) != 0 || !m.lacks("a") {
+		t.Errorf("%d paths", len(m.Paths()))
+	}
+}
+
+// TestInsertKeepsNothingTwice: an entry that is there already is left as it is.
+func TestInsertKeepsNothingTwice(t *testing.T) {
+	m := Entries{}
+	for range 3 {
+		if e := m.Insert("a", leaf(), []string{"a"}); e != api.OK || len(m) != 1 {
+			t.Errorf("%d, %d entries", e, len(m))
+		}
+	}
+}
