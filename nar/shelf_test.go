@@ -193,16 +193,13 @@ func everyOrder(l []string, f func(l []string)) {
 	more(0)
 }
 
-// TestClosureOfEverySmallStore: four paths, put in in every order, with all references that they may have, and all roots.
+// TestClosureOfEverySmallStore: four paths, put in in every order, with all references that they may have, to themselves too, and all roots.
 func TestClosureOfEverySmallStore(t *testing.T) {
 	everyOrder(refsOf("- 0 a a0"), func(paths []string) {
-		for bits := range 1 << 7 {
+		for bits := range 1 << 10 {
 			s, h := NewStore(), shelf{}
 			for i, p := range paths {
-				refs := someOf(paths[:i], bits>>(i*(i-1)/2))
-				if bits>>6 > 0 {
-					refs = append(refs, p)
-				}
+				refs := someOf(paths[:i+1], bits>>(i*(i+1)/2))
 				slices.Sort(refs)
 				h.insert(p, leaf(p), refs)
 				if e := s.Insert(p, leaf(p), refs); e != api.OK {
