@@ -181,8 +181,13 @@ func TestEveryCallEnds(t *testing.T) {
 				st.Paths()
 				st.Closure(texts)
 				st.Closure([]string{"m", s})
-				st.Export([]string{s})
+				st.Export(texts)
+				st.Export([]string{"m", s})
+				st.Import(nil)
+				st.Import(texts)
 				st.Import([]string{s, s})
+				st.Import([]string{words("export-1 path m"), s})
+				st.Import([]string{words("export-1"), headBytes("m", words("nar-1 ( type dir )")), s})
 			}
 		}
 	}

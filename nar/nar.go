@@ -66,6 +66,14 @@ func (s *Store) Paths() []string { return s.entries().Paths() }
 // Closure: what some paths lead to (P5).
 func (s *Store) Closure(roots []string) ([]string, api.Errno) { return s.entries().Closure(roots) }
 
+// Export: that as bytes (P6).
+func (s *Store) Export(roots []string) (string, api.Errno) { return s.entries().Export(roots) }
+
+// Import: entries out of bytes, all of them or none (P7).
+func (s *Store) Import(pieces []string) ([]string, api.Errno, int) {
+	return s.entries().Import(pieces)
+}
+
 // entries: a store that NewStore did not make has none, and no room for one: no call may panic on it.
 func (s *Store) entries() store.Entries {
 	if s == nil {
@@ -73,9 +81,3 @@ func (s *Store) entries() store.Entries {
 	}
 	return s.in
 }
-
-// Export: that as bytes (P6).
-func (s *Store) Export(roots []string) (string, api.Errno) { return "", api.OK }
-
-// Import: entries out of bytes (P7).
-func (s *Store) Import(pieces []string) ([]string, api.Errno, int) { return nil, api.OK, 0 }

@@ -1,4 +1,4 @@
-// Package store: trees by their paths, with references, and what paths lead to.
+// Package store: trees by their paths, with references, what paths lead to, and that as bytes and out of bytes.
 package store
 
 import (
@@ -32,7 +32,7 @@ func (m Entries) Insert(path string, l []api.Node, refs []string) api.Errno {
 	if !rise(refs) {
 		return api.ErrOrder
 	}
-	if slices.ContainsFunc(refs, func(ref string) bool { return ref != path && m.lacks(ref) }) {
+	if slices.ContainsFunc(refs, func(ref string) bool { return !m.mayRefer(path, ref) }) {
 		return api.ErrRef
 	}
 	return m.put(path, entry{tree: bytes, refs: copied(refs)})
@@ -63,6 +63,9 @@ func (m Entries) Get(path string) (api.Entry, api.Errno) {
 
 // Paths: all, rising.
 func (m Entries) Paths() []string { return slices.Sorted(maps.Keys(m)) }
+
+// mayRefer: to itself, or to what is there ahead of it.
+func (m Entries) mayRefer(path, ref string) bool { return ref == path || !m.lacks(ref) }
 
 // lacks: whether the path is not there.
 func (m Entries) lacks(path string) bool {

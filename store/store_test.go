@@ -82,6 +82,55 @@ func TestEntriesThatNobodyMade(t *testing.T) {
 	if len(m.Paths()) != 0 || !m.lacks("a") {
 		t.Errorf("%d paths", len(m.Paths()))
 	}
+	none, e := m.Export(nil)
+	if e != api.OK {
+		t.Errorf("Export: %d", e)
+	}
+	if l, e, at := m.Import([]string{none}); len(l) != 0 || e != api.OK || at != 0 {
+		t.Errorf("Import: %q, %d, %d", l, e, at)
+	}
+}
+
+func TestMayRefer(t *testing.T) {
+	m := Entries{"b": {}}
+	for ref, want := range map[string]bool{"a": true, "b": true, "c": false, "": false} {
+		if m.mayRefer("a", ref) != want {
+			t.Errorf("%q: %v", ref, !want)
+		}
+	}
+}
+
+// TestImportSharesNothing: two stores that one export came into, and the one it came of, have lists of their own.
+func TestImportSharesNothing(t *testing.T) {
+	m, one, two := Entries{}, Entries{}, Entries{}
+	m.Insert("a", leaf(), []string{"a"})
+	m.Insert("b", leaf(), []string{"a", "b"})
+	s, _ := m.Export([]string{"b"})
+	one.Import([]string{s})
+	two.Import([]string{s})
+	one["b"].refs[0] = "x"
+	one["a"].refs[0] = "x"
+	for _, l := range [][]string{m["a"].refs, two["a"].refs, m["b"].refs, two["b"].refs, one["b"].refs[1:]} {
+		if slices.Contains(l, "x") {
+			t.Errorf("%q", l)
+		}
+	}
+}
+
+// TestAnImportThatIsRefusedWritesNowhere: not even into what is there already.
+func TestAnImportThatIsRefusedWritesNowhere(t *testing.T) {
+	m, from := Entries{}, Entries{}
+	m.Insert("a", leaf(), nil)
+	from.Insert("a", leaf(), nil)
+	from.Insert("b", leaf(), []string{"a"})
+	s, _ := from.Export([]string{"b"})
+	before := m["a"].tree
+	if l, e, at := m.Import([]string{s, "x"}); l != nil || e != api.ErrRest || at != len(s) {
+		t.Errorf("%q, %d, %d", l, e, at)
+	}
+	if len(m) != 1 || m["a"].tree != before || m["a"].refs != nil {
+		t.Errorf("%v", m)
+	}
 }
 
 // TestInsertKeepsNothingTwice: an entry that is there already is left as it is.

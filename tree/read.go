@@ -23,8 +23,14 @@ type grown struct {
 // NewReader: of no bytes yet.
 func NewReader() *Reader {
 	r := &Reader{}
-	r.Must(expect.Word("nar-1"), expect.Words(r.takeBracket))
+	r.MustTree()
 	return r
+}
+
+// MustTree: a tree comes next, ahead of all that the list has already; what was read of another is let go.
+func (r *Reader) MustTree() {
+	r.grown = grown{}
+	r.Must(expect.Word("nar-1"), expect.Words(r.takeBracket))
 }
 
 // Feed: bytes more.
@@ -40,6 +46,12 @@ func (r *Reader) Close() ([]api.Node, api.Errno, int) {
 		return nil, e, at
 	}
 	return r.nodes, api.OK, 0
+}
+
+// TreeBytes: of the tree that was read last. There is just one way to write it, so they are those that came.
+func (r *Reader) TreeBytes() string {
+	s, _, _ := Pack(r.nodes)
+	return s
 }
 
 // Unpack: the tree that Pack wrote.

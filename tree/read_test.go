@@ -6,6 +6,7 @@ import (
 	"testing"
 
 	"nar/api"
+	"nar/expect"
 	"nar/wire"
 )
 
@@ -39,5 +40,33 @@ func TestUnpack(t *testing.T) {
 	first[0] = api.Node{}
 	if !slices.Equal(second, l) {
 		t.Errorf("two lists share memory: %v", second)
+	}
+}
+
+// TestMustTreeAmongOtherStrings: trees one behind another, each read as if it were alone.
+func TestMustTreeAmongOtherStrings(t *testing.T) {
+	one := []api.Node{{Kind: api.Dir}, {Path: "z", Kind: api.Link, Data: "x"}}
+	two := []api.Node{{Kind: api.Dir}, {Path: "a", Kind: api.File}}
+	var r Reader
+	var got []string
+	note := expect.Words(func(s string) api.Errno {
+		got = append(got, r.TreeBytes()+s)
+		return api.OK
+	})
+	again := expect.Words(func(s string) api.Errno {
+		r.MustTree()
+		return api.OK
+	})
+	r.Must(again, note, again, note)
+	first, _, _ := Pack(one)
+	second, _, _ := Pack(two)
+	for _, s := range []string{string(wire.Append(nil, "x")), first, string(wire.Append(nil, "1", "x")), second, string(wire.Append(nil, "2"))} {
+		r.Feed(s)
+	}
+	if l, e, at := r.Close(); e != api.OK || at != 0 || !slices.Equal(l, two) {
+		t.Errorf("%v, %d, %d", l, e, at)
+	}
+	if !slices.Equal(got, []string{first + "1", second + "2"}) {
+		t.Errorf("%q", got)
 	}
 }
